@@ -1,0 +1,238 @@
+package tests
+
+import (
+	"math"
+	"slices"
+	"strings"
+	"testing"
+
+	"loop.example/g00456/impl"
+)
+
+const (
+	greatest = math.MaxInt
+	least    = math.MinInt
+)
+
+// guard stands behind the end of the lists that are handed in.
+const guard = "behind the end"
+
+var guardIo = impl.Io{Host: 77, At: 777, Data: guard}
+
+// sameDisk holds nil and empty lists for the same, as slices.Equal does.
+func sameDisk(a, b impl.Disk) bool {
+	return slices.Equal(a.Sectors, b.Sectors) && slices.Equal(a.Pending, b.Pending)
+}
+
+// roomy is d in lists with guards behind their ends, where a careless append would write.
+func roomy(d impl.Disk) impl.Disk {
+	sectors := make([]string, len(d.Sectors)+3)
+	pending := make([]impl.Io, len(d.Pending)+3)
+	n, p := copy(sectors, d.Sectors), copy(pending, d.Pending)
+	for i := range 3 {
+		sectors[n+i], pending[p+i] = guard, guardIo
+	}
+	return impl.Disk{Sectors: sectors[:n], Pending: pending[:p]}
+}
+
+// untouched tells whether the roomy disk d is still like was, and its guards stand.
+func untouched(d, was impl.Disk) bool {
+	if !sameDisk(d, was) {
+		return false
+	}
+	for _, s := range d.Sectors[len(d.Sectors):cap(d.Sectors)] {
+		if s != guard {
+			return false
+		}
+	}
+	for _, w := range d.Pending[len(d.Pending):cap(d.Pending)] {
+		if w != guardIo {
+			return false
+		}
+	}
+	return true
+}
+
+// scribble writes over all of a disk's memory, also over what stands behind the ends of its lists.
+func scribble(d impl.Disk) {
+	for i := range d.Sectors[:cap(d.Sectors)] {
+		d.Sectors[:cap(d.Sectors)][i] = "scribbled"
+	}
+	for i := range d.Pending[:cap(d.Pending)] {
+		d.Pending[:cap(d.Pending)][i] = impl.Io{Host: -9, At: -9, Data: "scribbled"}
+	}
+}
+
+// cloneDisk does not lean on the program.
+func cloneDisk(d impl.Disk) impl.Disk {
+	return impl.Disk{Sectors: slices.Clone(d.Sectors), Pending: slices.Clone(d.Pending)}
+}
+
+// emptyDisk does not lean on the program either.
+func emptyDisk() impl.Disk {
+	return impl.Disk{Sectors: make([]string, 64)}
+}
+
+func diskWith(pending ...impl.Io) impl.Disk {
+	d := emptyDisk()
+	d.Pending = pending
+	return d
+}
+
+// mixedDisk has sectors that are sure and writes of hosts 0, 1 and 3, one of them an empty text, some of them in one place.
+func mixedDisk() impl.Disk {
+	d := diskWith(
+		impl.Io{Host: 0, At: 5, Data: "a"},
+		impl.Io{Host: 1, At: 5, Data: "b"},
+		impl.Io{Host: 0, At: 6, Data: "c"},
+		impl.Io{Host: 3, At: 63, Data: strings.Repeat("x", 80)},
+		impl.Io{Host: 0, At: 5, Data: "d"},
+		impl.Io{Host: 1, At: 7, Data: ""},
+	)
+	for i := range d.Sectors {
+		d.Sectors[i] = "sure" + string(rune('A'+i%26))
+	}
+	return d
+}
+
+// fullDisk has 200 writes that are not sure, of all hosts in turn.
+func fullDisk() impl.Disk {
+	d := emptyDisk()
+	for i := range 200 {
+		d.Pending = append(d.Pending, impl.Io{Host: i % 4, At: i % 64, Data: "w" + string(rune('a'+i%26))})
+	}
+	return d
+}
+
+func withSector(at int, data string) impl.Disk {
+	d := mixedDisk()
+	d.Sectors[at] = data
+	return d
+}
+
+func withWrite(at int, w impl.Io) impl.Disk {
+	d := mixedDisk()
+	d.Pending[at] = w
+	return d
+}
+
+type namedDisk struct {
+	name string
+	disk impl.Disk
+}
+
+func rightDisks() []namedDisk {
+	nilPending, noPending := emptyDisk(), emptyDisk()
+	nilPending.Pending, noPending.Pending = nil, []impl.Io{}
+	return []namedDisk{
+		{"nil writes", nilPending},
+		{"no writes", noPending},
+		{"mixed", mixedDisk()},
+		{"full", fullDisk()},
+		{"sectors of 80 bytes", withSector(63, strings.Repeat("s", 80))},
+		{"write of host 3 at 63", withWrite(5, impl.Io{Host: 3, At: 63, Data: strings.Repeat("s", 80)})},
+		{"write of host 0 at 0", withWrite(0, impl.Io{})},
+		{"bytes that are no letters", withSector(0, "\x00\xff\n")},
+	}
+}
+
+// wrongDisks are not right in one way each, at the first and at the last place where it may be.
+func wrongDisks() []namedDisk {
+	long := strings.Repeat("s", 81)
+	sectors := func(n int) impl.Disk { return impl.Disk{Sectors: make([]string, n)} }
+	tooMany := fullDisk()
+	tooMany.Pending = append(tooMany.Pending, impl.Io{})
+	great := emptyDisk()
+	great.Pending = make([]impl.Io, impl.MaxList+1)
+	return []namedDisk{
+		{"zero", impl.Disk{}},
+		{"empty lists", impl.Disk{Sectors: []string{}, Pending: []impl.Io{}}},
+		{"63 sectors", sectors(63)},
+		{"65 sectors", sectors(65)},
+		{"4097 sectors", sectors(4097)},
+		{"first sector of 81", withSector(0, long)},
+		{"last sector of 81", withSector(63, long)},
+		{"sector of more than MaxText", withSector(9, strings.Repeat("s", impl.MaxText+1))},
+		{"201 writes", tooMany},
+		{"4097 writes", great},
+		{"host -1 first", withWrite(0, impl.Io{Host: -1})},
+		{"host 4 last", withWrite(5, impl.Io{Host: 4})},
+		{"least host", withWrite(2, impl.Io{Host: least})},
+		{"greatest host", withWrite(2, impl.Io{Host: greatest})},
+		{"place -1 first", withWrite(0, impl.Io{At: -1})},
+		{"place 64 last", withWrite(5, impl.Io{At: 64})},
+		{"least place", withWrite(2, impl.Io{At: least})},
+		{"greatest place", withWrite(2, impl.Io{At: greatest})},
+		{"write of 81 first", withWrite(0, impl.Io{Data: long})},
+		{"write of 81 last", withWrite(5, impl.Io{Data: long})},
+	}
+}
+
+// answer is what any call on a disk answers; what a call has not stays zero.
+type answer struct {
+	disk   impl.Disk
+	text   string
+	number int
+	code   int
+}
+
+func sameAnswer(a, b answer) bool {
+	return sameDisk(a.disk, b.disk) && a.text == b.text && a.number == b.number && a.code == b.code
+}
+
+type diskCall struct {
+	name string
+	run  func(d impl.Disk) answer
+}
+
+// diskCalls are the calls of chapter 2 with these arguments.
+func diskCalls(host, at, keep int, data string) []diskCall {
+	return []diskCall{
+		{"DiskOK", func(d impl.Disk) (a answer) {
+			if impl.DiskOK(d) {
+				a.number = 1
+			}
+			return a
+		}},
+		{"ReadSector", func(d impl.Disk) (a answer) { a.text, a.code = impl.ReadSector(d, host, at); return a }},
+		{"WriteSector", func(d impl.Disk) (a answer) { a.disk, a.code = impl.WriteSector(d, host, at, data); return a }},
+		{"Flush", func(d impl.Disk) (a answer) { a.disk, a.code = impl.Flush(d, host); return a }},
+		{"LandOne", func(d impl.Disk) (a answer) { a.disk, a.code = impl.LandOne(d, host); return a }},
+		{"LoseHost", func(d impl.Disk) (a answer) { a.disk, a.code = impl.LoseHost(d, host, keep); return a }},
+		{"PendingOf", func(d impl.Disk) (a answer) { a.number, a.code = impl.PendingOf(d, host); return a }},
+	}
+}
+
+type setting struct {
+	host, at, keep int
+	data           string
+}
+
+// settings are arguments at, within and beyond each bound, up to the greatest and least integers.
+func settings() []setting {
+	var out []setting
+	for _, host := range []int{0, 1, 3, -1, 4, least, greatest} {
+		for _, at := range []int{0, 5, 63, -1, 64, least, greatest} {
+			out = append(out, setting{host, at, 2, "data"})
+		}
+		for _, keep := range []int{0, 1, 200, -1, 201, least, greatest} {
+			out = append(out, setting{host, 5, keep, ""})
+		}
+		for _, n := range []int{80, 81, impl.MaxText, impl.MaxText + 1} {
+			out = append(out, setting{host, 6, 1, strings.Repeat("d", n)}, setting{host, 64, 1, strings.Repeat("d", n)})
+		}
+	}
+	return out
+}
+
+// everyCall runs f with each disk, right and wrong, each setting and each call.
+func everyCall(t *testing.T, f func(where string, d impl.Disk, c diskCall)) {
+	t.Helper()
+	for _, d := range slices.Concat(rightDisks(), wrongDisks()) {
+		for _, s := range settings() {
+			for _, c := range diskCalls(s.host, s.at, s.keep, s.data) {
+				f(d.name+": "+c.name, d.disk, c)
+			}
+		}
+	}
+}
