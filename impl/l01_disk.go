@@ -29,13 +29,7 @@ func ReadSector(d Disk, host, at int) (string, int) {
 	if code := placeFault(d, host, at); code != OK {
 		return "", code
 	}
-	// From the end: the newest write hides the host's earlier ones.
-	for i := len(d.Pending) - 1; i >= 0; i-- {
-		if w := d.Pending[i]; w.Host == host && w.At == at {
-			return w.Data, OK
-		}
-	}
-	return d.Sectors[at], OK
+	return seenBy(d, host, at), OK
 }
 
 func WriteSector(d Disk, host, at int, data string) (Disk, int) {
@@ -144,6 +138,26 @@ func placeFault(d Disk, host, at int) int {
 
 func copyDisk(d Disk) Disk {
 	return Disk{Sectors: copyList(d.Sectors), Pending: copyList(d.Pending)}
+}
+
+// seenBy takes a right disk, host and place.
+func seenBy(d Disk, host, at int) string {
+	// From the end: the newest write hides the host's earlier ones.
+	for i := len(d.Pending) - 1; i >= 0; i-- {
+		if w := d.Pending[i]; w.Host == host && w.At == at {
+			return w.Data
+		}
+	}
+	return d.Sectors[at]
+}
+
+// writeSure makes the host's earlier writes sure, too: a flush spares none.
+func writeSure(d Disk, host, at int, data string) (Disk, int) {
+	out, code := WriteSector(d, host, at, data)
+	if code != OK {
+		return Disk{}, code
+	}
+	return Flush(out, host)
 }
 
 func countWrites(d Disk, host int) int {

@@ -133,6 +133,8 @@ func rightDisks() []namedDisk {
 		{"write of host 3 at 63", withWrite(5, impl.Io{Host: 3, At: 63, Data: strings.Repeat("s", 80)})},
 		{"write of host 0 at 0", withWrite(0, impl.Io{})},
 		{"bytes that are no letters", withSector(0, "\x00\xff\n")},
+		{"generations", deltaDisk()},
+		{"generations on a full disk", filledUp(deltaDisk(), 3, 200)},
 	}
 }
 
@@ -173,16 +175,25 @@ type answer struct {
 	disk   impl.Disk
 	text   string
 	number int
+	delta  impl.Delta
 	code   int
 }
 
 func sameAnswer(a, b answer) bool {
-	return sameDisk(a.disk, b.disk) && a.text == b.text && a.number == b.number && a.code == b.code
+	return sameDisk(a.disk, b.disk) && a.text == b.text && a.number == b.number && a.delta == b.delta && a.code == b.code
 }
 
 type diskCall struct {
 	name string
 	run  func(d impl.Disk) answer
+}
+
+// asItWas has, of each call, the codes with which its disk is as it was.
+var asItWas = map[string][]int{
+	"WriteSector": {impl.ErrFull},
+	"LandOne":     {impl.ErrNone},
+	"TakeDelta":   {impl.ErrMany},
+	"RenewDelta":  {impl.ErrStale, impl.ErrOrder},
 }
 
 // diskCalls are the calls of chapter 2 with these arguments.
@@ -225,14 +236,22 @@ func settings() []setting {
 	return out
 }
 
-// everyCall runs f with each disk, right and wrong, each setting and each call.
+// allCalls are the calls on a disk with each setting.
+func allCalls() []diskCall {
+	var out []diskCall
+	for _, s := range settings() {
+		out = append(out, diskCalls(s.host, s.at, s.keep, s.data)...)
+	}
+	return append(out, deltaCalls()...)
+}
+
+// everyCall runs f with each disk, right and wrong, and each call.
 func everyCall(t *testing.T, f func(where string, d impl.Disk, c diskCall)) {
 	t.Helper()
+	calls := allCalls()
 	for _, d := range slices.Concat(rightDisks(), wrongDisks()) {
-		for _, s := range settings() {
-			for _, c := range diskCalls(s.host, s.at, s.keep, s.data) {
-				f(d.name+": "+c.name, d.disk, c)
-			}
+		for _, c := range calls {
+			f(d.name+": "+c.name, d.disk, c)
 		}
 	}
 }

@@ -1,6 +1,7 @@
 package tests
 
 import (
+	"slices"
 	"strings"
 	"testing"
 
@@ -61,6 +62,8 @@ func TestP1AlikeArgumentsHaveAlikeAnswers(t *testing.T) {
 		impl.WriteSector(d, 9, 9, "")
 		impl.CodeOf("broken")
 		impl.NameOK("x")
+		impl.TakeDelta(deltaDisk(), 1, 7)
+		impl.RenewDelta(deltaDisk(), impl.Delta{Host: 1, Gen: 3, Stamp: 40}, 41)
 	}
 	everyCall(t, func(where string, d impl.Disk, c diskCall) {
 		first := c.run(roomy(d))
@@ -74,14 +77,12 @@ func TestP1AlikeArgumentsHaveAlikeAnswers(t *testing.T) {
 func TestP1NilAndEmptyAreAlike(t *testing.T) {
 	empty := emptyDisk()
 	empty.Pending = []impl.Io{}
-	for _, s := range settings() {
-		for _, c := range diskCalls(s.host, s.at, s.keep, s.data) {
-			if !sameAnswer(c.run(emptyDisk()), c.run(empty)) {
-				t.Error("nil and empty lists are told apart:", c.name)
-			}
-			if !sameAnswer(c.run(impl.Disk{}), c.run(impl.Disk{Sectors: []string{}, Pending: []impl.Io{}})) {
-				t.Error("nil and empty sectors are told apart:", c.name)
-			}
+	for _, c := range allCalls() {
+		if !sameAnswer(c.run(emptyDisk()), c.run(empty)) {
+			t.Error("nil and empty lists are told apart:", c.name)
+		}
+		if !sameAnswer(c.run(impl.Disk{}), c.run(impl.Disk{Sectors: []string{}, Pending: []impl.Io{}})) {
+			t.Error("nil and empty sectors are told apart:", c.name)
 		}
 	}
 }
@@ -96,12 +97,16 @@ func TestP1WithACodeAllElseIsZero(t *testing.T) {
 		if got.text != "" || got.number != 0 {
 			t.Fatal("not zero with a code:", where, got.code)
 		}
-		asItWas := got.code == impl.ErrFull || got.code == impl.ErrNone
-		if asItWas && !sameDisk(got.disk, d) {
+		same := slices.Contains(asItWas[c.name], got.code)
+		if same && !sameDisk(got.disk, d) {
 			t.Fatal("the disk is not as it was:", where, got.code)
 		}
-		if !asItWas && c.name != "WriteSector" && !sameDisk(got.disk, impl.Disk{}) {
+		if !same && c.name != "WriteSector" && !sameDisk(got.disk, impl.Disk{}) {
 			t.Fatal("the disk is not zero with a code:", where, got.code)
+		}
+		// RenewDelta is given a generation, too, and answers it as it was.
+		if !(same && c.name == "RenewDelta") && got.delta != (impl.Delta{}) {
+			t.Fatal("the generation is not zero with a code:", where, got.code)
 		}
 	})
 }
@@ -199,6 +204,9 @@ func TestP1Constants(t *testing.T) {
 		{"MaxText", impl.MaxText, 65536}, {"MaxList", impl.MaxList, 4096}, {"MaxName", impl.MaxName, 40},
 		{"DiskSize", impl.DiskSize, 64}, {"SectorSize", impl.SectorSize, 80}, {"Hosts", impl.Hosts, 4},
 		{"MaxPending", impl.MaxPending, 200}, {"MaxInt", impl.MaxInt, 2147483648},
+		{"LeaderAt", impl.LeaderAt, 0}, {"BlockAt", impl.BlockAt, 1}, {"DeltaAt", impl.DeltaAt, 5},
+		{"SuperAt", impl.SuperAt, 9}, {"RefsAt", impl.RefsAt, 10}, {"MapAt", impl.MapAt, 11},
+		{"DataAt", impl.DataAt, 15}, {"SlotAt", impl.SlotAt, 39},
 	} {
 		if c.got != c.want {
 			t.Error(c.name, c.got)
