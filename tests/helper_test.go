@@ -104,6 +104,31 @@ func fullDisk() impl.Disk {
 	return d
 }
 
+// readBy is what a host reads, without the program.
+func readBy(d impl.Disk, host, at int) string {
+	data := d.Sectors[at]
+	for _, w := range d.Pending {
+		if w.Host == host && w.At == at {
+			data = w.Data
+		}
+	}
+	return data
+}
+
+// putBy makes, likewise, all of the host's writes sure, and one more behind them.
+func putBy(d impl.Disk, host, at int, data string) impl.Disk {
+	out := impl.Disk{Sectors: slices.Clone(d.Sectors)}
+	for _, w := range d.Pending {
+		if w.Host == host {
+			out.Sectors[w.At] = w.Data
+		} else {
+			out.Pending = append(out.Pending, w)
+		}
+	}
+	out.Sectors[at] = data
+	return out
+}
+
 func withSector(at int, data string) impl.Disk {
 	d := mixedDisk()
 	d.Sectors[at] = data
@@ -135,6 +160,12 @@ func rightDisks() []namedDisk {
 		{"bytes that are no letters", withSector(0, "\x00\xff\n")},
 		{"generations", deltaDisk()},
 		{"generations on a full disk", filledUp(deltaDisk(), 3, 200)},
+		{"a leader", leaderDisk()},
+		{"a leader on a full disk", filledUp(leaderDisk(), 1, 200)},
+		{"room for one write", filledUp(leaderDisk(), 2, 199)},
+		{"the last version", diskOf(impl.Leader{Ver: 1000000, Owner: 2, Gen: 5}, impl.Block{Ver: 1000000, Mbal: 9, Bal: 9, Inp: 1025})},
+		{"the last ballot", diskOf(impl.Leader{Ver: 6, Owner: 2, Gen: 5}, impl.Block{Ver: 7, Mbal: 1000000})},
+		{"a block of a later version", diskOf(impl.Leader{Ver: 6, Owner: 2, Gen: 5}, impl.Block{}, impl.Block{Ver: 8})},
 	}
 }
 
@@ -176,11 +207,12 @@ type answer struct {
 	text   string
 	number int
 	delta  impl.Delta
+	leader impl.Leader
 	code   int
 }
 
 func sameAnswer(a, b answer) bool {
-	return sameDisk(a.disk, b.disk) && a.text == b.text && a.number == b.number && a.delta == b.delta && a.code == b.code
+	return sameDisk(a.disk, b.disk) && a.text == b.text && a.number == b.number && a.delta == b.delta && a.leader == b.leader && a.code == b.code
 }
 
 type diskCall struct {
@@ -194,6 +226,13 @@ var asItWas = map[string][]int{
 	"LandOne":     {impl.ErrNone},
 	"TakeDelta":   {impl.ErrMany},
 	"RenewDelta":  {impl.ErrStale, impl.ErrOrder},
+	"Elect":       {impl.ErrMany},
+	"Release":     {impl.ErrStale, impl.ErrHeld, impl.ErrMany},
+}
+
+// asFarAsItCame has those with which it is what was done up to there.
+var asFarAsItCame = map[string][]int{
+	"Elect": {impl.ErrAbort},
 }
 
 // diskCalls are the calls of chapter 2 with these arguments.
@@ -242,7 +281,7 @@ func allCalls() []diskCall {
 	for _, s := range settings() {
 		out = append(out, diskCalls(s.host, s.at, s.keep, s.data)...)
 	}
-	return append(out, deltaCalls()...)
+	return slices.Concat(out, deltaCalls(), leaderCalls())
 }
 
 // everyCall runs f with each disk, right and wrong, and each call.

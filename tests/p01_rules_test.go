@@ -55,15 +55,17 @@ func TestP1AnswersShareNoMemoryWithEachOther(t *testing.T) {
 }
 
 func TestP1AlikeArgumentsHaveAlikeAnswers(t *testing.T) {
+	full, deltas, leaders := fullDisk(), deltaDisk(), leaderDisk()
 	busy := func() {
-		d := fullDisk()
-		impl.Flush(d, 0)
-		impl.LoseHost(d, 1, 3)
-		impl.WriteSector(d, 9, 9, "")
+		impl.Flush(full, 0)
+		impl.LoseHost(full, 1, 3)
+		impl.WriteSector(full, 9, 9, "")
 		impl.CodeOf("broken")
 		impl.NameOK("x")
-		impl.TakeDelta(deltaDisk(), 1, 7)
-		impl.RenewDelta(deltaDisk(), impl.Delta{Host: 1, Gen: 3, Stamp: 40}, 41)
+		impl.TakeDelta(deltas, 1, 7)
+		impl.RenewDelta(deltas, impl.Delta{Host: 1, Gen: 3, Stamp: 40}, 41)
+		impl.Elect(leaders, 3, 1, 7)
+		impl.Release(leaders, 2, impl.Leader{Ver: 6, Owner: 2, Gen: 5})
 	}
 	everyCall(t, func(where string, d impl.Disk, c diskCall) {
 		first := c.run(roomy(d))
@@ -101,12 +103,17 @@ func TestP1WithACodeAllElseIsZero(t *testing.T) {
 		if same && !sameDisk(got.disk, d) {
 			t.Fatal("the disk is not as it was:", where, got.code)
 		}
-		if !same && c.name != "WriteSector" && !sameDisk(got.disk, impl.Disk{}) {
+		far := slices.Contains(asFarAsItCame[c.name], got.code)
+		if !same && !far && c.name != "WriteSector" && !sameDisk(got.disk, impl.Disk{}) {
 			t.Fatal("the disk is not zero with a code:", where, got.code)
 		}
 		// RenewDelta is given a generation, too, and answers it as it was.
 		if !(same && c.name == "RenewDelta") && got.delta != (impl.Delta{}) {
 			t.Fatal("the generation is not zero with a code:", where, got.code)
+		}
+		// Who leads is told wherever a disk is.
+		if !same && !far && got.leader != (impl.Leader{}) {
+			t.Fatal("the leader is not zero with a code:", where, got.code)
 		}
 	})
 }

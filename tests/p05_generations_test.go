@@ -181,16 +181,7 @@ func renewed(t *testing.T, d impl.Disk, x impl.Delta, now int) (impl.Disk, impl.
 func wantWritten(t *testing.T, where string, d, out impl.Disk, x impl.Delta, code int) {
 	t.Helper()
 	wantOK(t, where, code)
-	want := cloneDisk(d)
-	want.Pending = nil
-	for _, w := range d.Pending {
-		if w.Host == x.Host {
-			want.Sectors[w.At] = w.Data
-		} else {
-			want.Pending = append(want.Pending, w)
-		}
-	}
-	want.Sectors[5+x.Host] = deltaText(x.Host, x.Gen, x.Stamp)
+	want := putBy(d, x.Host, 5+x.Host, deltaText(x.Host, x.Gen, x.Stamp))
 	if !sameDisk(out, want) {
 		t.Fatal(where, "wrote something else:", x, out.Sectors[5:9], out.Pending)
 	}
