@@ -55,12 +55,8 @@ func untouched(d, was impl.Disk) bool {
 
 // scribble writes over all of a disk's memory, also over what stands behind the ends of its lists.
 func scribble(d impl.Disk) {
-	for i := range d.Sectors[:cap(d.Sectors)] {
-		d.Sectors[:cap(d.Sectors)][i] = "scribbled"
-	}
-	for i := range d.Pending[:cap(d.Pending)] {
-		d.Pending[:cap(d.Pending)][i] = impl.Io{Host: -9, At: -9, Data: "scribbled"}
-	}
+	fillUp(d.Sectors, "scribbled")
+	fillUp(d.Pending, impl.Io{Host: -9, At: -9, Data: "scribbled"})
 }
 
 // cloneDisk does not lean on the program.
@@ -166,6 +162,8 @@ func rightDisks() []namedDisk {
 		{"the last version", diskOf(impl.Leader{Ver: 1000000, Owner: 2, Gen: 5}, impl.Block{Ver: 1000000, Mbal: 9, Bal: 9, Inp: 1025})},
 		{"the last ballot", diskOf(impl.Leader{Ver: 6, Owner: 2, Gen: 5}, impl.Block{Ver: 7, Mbal: 1000000})},
 		{"a block of a later version", diskOf(impl.Leader{Ver: 6, Owner: 2, Gen: 5}, impl.Block{}, impl.Block{Ver: 8})},
+		{"journals", journalDisk()},
+		{"journals, and room for a few moves", filledUp(journalDisk(), 2, 195)},
 	}
 }
 
@@ -203,16 +201,38 @@ func wrongDisks() []namedDisk {
 
 // answer is what any call on a disk answers; what a call has not stays zero.
 type answer struct {
-	disk   impl.Disk
-	text   string
-	number int
-	delta  impl.Delta
-	leader impl.Leader
-	code   int
+	disk    impl.Disk
+	text    string
+	number  int
+	delta   impl.Delta
+	leader  impl.Leader
+	updates []impl.Update
+	moves   []impl.Move
+	code    int
 }
 
 func sameAnswer(a, b answer) bool {
-	return sameDisk(a.disk, b.disk) && a.text == b.text && a.number == b.number && a.delta == b.delta && a.leader == b.leader && a.code == b.code
+	return sameDisk(a.disk, b.disk) && a.text == b.text && a.number == b.number && a.delta == b.delta && a.leader == b.leader &&
+		slices.Equal(a.updates, b.updates) && slices.Equal(a.moves, b.moves) && a.code == b.code
+}
+
+func cloneAnswer(a answer) answer {
+	a.disk, a.updates, a.moves = cloneDisk(a.disk), slices.Clone(a.updates), slices.Clone(a.moves)
+	return a
+}
+
+// scribbleAnswer writes over all of an answer's memory.
+func scribbleAnswer(a answer) {
+	scribble(a.disk)
+	fillUp(a.updates, impl.Update{At: -9, Data: "scribbled"})
+	fillUp(a.moves, impl.Move{Kind: -9, At: -9, Data: "scribbled"})
+}
+
+// fillUp writes one thing over a list, also over what stands behind its end.
+func fillUp[T any](list []T, with T) {
+	for i := range list[:cap(list)] {
+		list[:cap(list)][i] = with
+	}
 }
 
 type diskCall struct {
@@ -228,6 +248,7 @@ var asItWas = map[string][]int{
 	"RenewDelta":  {impl.ErrStale, impl.ErrOrder},
 	"Elect":       {impl.ErrMany},
 	"Release":     {impl.ErrStale, impl.ErrHeld, impl.ErrMany},
+	"MovesDo":     {impl.ErrFull},
 }
 
 // asFarAsItCame has those with which it is what was done up to there.
@@ -281,7 +302,7 @@ func allCalls() []diskCall {
 	for _, s := range settings() {
 		out = append(out, diskCalls(s.host, s.at, s.keep, s.data)...)
 	}
-	return slices.Concat(out, deltaCalls(), leaderCalls())
+	return slices.Concat(out, deltaCalls(), leaderCalls(), journalCalls())
 }
 
 // everyCall runs f with each disk, right and wrong, and each call.

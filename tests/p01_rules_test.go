@@ -24,9 +24,8 @@ func TestP1AnswersShareNoMemoryWithArguments(t *testing.T) {
 	everyCall(t, func(where string, d impl.Disk, c diskCall) {
 		given := roomy(d)
 		got := c.run(given)
-		want := got
-		want.disk = cloneDisk(got.disk)
-		scribble(got.disk)
+		want := cloneAnswer(got)
+		scribbleAnswer(got)
 		if !untouched(given, d) {
 			t.Fatal("writing into the answer changed the argument:", where)
 		}
@@ -46,16 +45,16 @@ func TestP1AnswersShareNoMemoryWithEachOther(t *testing.T) {
 	}
 	everyCall(t, func(where string, d impl.Disk, c diskCall) {
 		first, second := c.run(d), c.run(d)
-		want := cloneDisk(second.disk)
-		scribble(first.disk)
-		if !sameDisk(second.disk, want) {
+		want := cloneAnswer(second)
+		scribbleAnswer(first)
+		if !sameAnswer(second, want) {
 			t.Fatal("two answers share memory:", where)
 		}
 	})
 }
 
 func TestP1AlikeArgumentsHaveAlikeAnswers(t *testing.T) {
-	full, deltas, leaders := fullDisk(), deltaDisk(), leaderDisk()
+	full, deltas, leaders, journals := fullDisk(), deltaDisk(), leaderDisk(), journalDisk()
 	busy := func() {
 		impl.Flush(full, 0)
 		impl.LoseHost(full, 1, 3)
@@ -66,6 +65,9 @@ func TestP1AlikeArgumentsHaveAlikeAnswers(t *testing.T) {
 		impl.RenewDelta(deltas, impl.Delta{Host: 1, Gen: 3, Stamp: 40}, 41)
 		impl.Elect(leaders, 3, 1, 7)
 		impl.Release(leaders, 2, impl.Leader{Ver: 6, Owner: 2, Gen: 5})
+		impl.JournalOf(journals, 3, 1)
+		plan, _ := impl.ReplayPlan(journals, 3, 0)
+		impl.MovesDo(journals, 3, plan)
 	}
 	everyCall(t, func(where string, d impl.Disk, c diskCall) {
 		first := c.run(roomy(d))
@@ -89,14 +91,14 @@ func TestP1NilAndEmptyAreAlike(t *testing.T) {
 	}
 }
 
-// Where the document says 'as it was' the disk is what was given; with every other code it is zero, and so are texts and numbers.
+// Where the document says 'as it was' the disk is what was given; with every other code it is zero, and so are texts, numbers and lists.
 func TestP1WithACodeAllElseIsZero(t *testing.T) {
 	everyCall(t, func(where string, d impl.Disk, c diskCall) {
 		got := c.run(d)
 		if got.code == impl.OK {
 			return
 		}
-		if got.text != "" || got.number != 0 {
+		if got.text != "" || got.number != 0 || len(got.updates) != 0 || len(got.moves) != 0 {
 			t.Fatal("not zero with a code:", where, got.code)
 		}
 		same := slices.Contains(asItWas[c.name], got.code)
