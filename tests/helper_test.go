@@ -164,6 +164,9 @@ func rightDisks() []namedDisk {
 		{"a block of a later version", diskOf(impl.Leader{Ver: 6, Owner: 2, Gen: 5}, impl.Block{}, impl.Block{Ver: 8})},
 		{"journals", journalDisk()},
 		{"journals, and room for a few moves", filledUp(journalDisk(), 2, 195)},
+		{"an image", imageDisk()},
+		{"an image, and room for three", filledUp(imageDisk(), 1, 197)},
+		{"an image, and room for two", filledUp(imageDisk(), 0, 198)},
 	}
 }
 
@@ -208,16 +211,17 @@ type answer struct {
 	leader  impl.Leader
 	updates []impl.Update
 	moves   []impl.Move
+	image   impl.Image
 	code    int
 }
 
 func sameAnswer(a, b answer) bool {
 	return sameDisk(a.disk, b.disk) && a.text == b.text && a.number == b.number && a.delta == b.delta && a.leader == b.leader &&
-		slices.Equal(a.updates, b.updates) && slices.Equal(a.moves, b.moves) && a.code == b.code
+		slices.Equal(a.updates, b.updates) && slices.Equal(a.moves, b.moves) && sameImage(a.image, b.image) && a.code == b.code
 }
 
 func cloneAnswer(a answer) answer {
-	a.disk, a.updates, a.moves = cloneDisk(a.disk), slices.Clone(a.updates), slices.Clone(a.moves)
+	a.disk, a.updates, a.moves, a.image = cloneDisk(a.disk), slices.Clone(a.updates), slices.Clone(a.moves), cloneImage(a.image)
 	return a
 }
 
@@ -226,6 +230,7 @@ func scribbleAnswer(a answer) {
 	scribble(a.disk)
 	fillUp(a.updates, impl.Update{At: -9, Data: "scribbled"})
 	fillUp(a.moves, impl.Move{Kind: -9, At: -9, Data: "scribbled"})
+	scribbleImage(a.image)
 }
 
 // fillUp writes one thing over a list, also over what stands behind its end.
@@ -249,6 +254,7 @@ var asItWas = map[string][]int{
 	"Elect":       {impl.ErrMany},
 	"Release":     {impl.ErrStale, impl.ErrHeld, impl.ErrMany},
 	"MovesDo":     {impl.ErrFull},
+	"Format":      {impl.ErrFull},
 }
 
 // asFarAsItCame has those with which it is what was done up to there.
@@ -302,7 +308,7 @@ func allCalls() []diskCall {
 	for _, s := range settings() {
 		out = append(out, diskCalls(s.host, s.at, s.keep, s.data)...)
 	}
-	return slices.Concat(out, deltaCalls(), leaderCalls(), journalCalls())
+	return slices.Concat(out, deltaCalls(), leaderCalls(), journalCalls(), storeCalls())
 }
 
 // everyCall runs f with each disk, right and wrong, and each call.

@@ -50,24 +50,26 @@ func scribbleImage(m impl.Image) {
 
 // imageAnswer is what any of them answers; what a call has not stays zero.
 type imageAnswer struct {
-	image  impl.Image
-	names  []string
-	number int
-	code   int
+	image   impl.Image
+	names   []string
+	updates []impl.Update
+	number  int
+	code    int
 }
 
 func sameImageAnswer(a, b imageAnswer) bool {
-	return sameImage(a.image, b.image) && slices.Equal(a.names, b.names) && a.number == b.number && a.code == b.code
+	return sameImage(a.image, b.image) && slices.Equal(a.names, b.names) && slices.Equal(a.updates, b.updates) && a.number == b.number && a.code == b.code
 }
 
 func cloneImageAnswer(a imageAnswer) imageAnswer {
-	a.image, a.names = cloneImage(a.image), slices.Clone(a.names)
+	a.image, a.names, a.updates = cloneImage(a.image), slices.Clone(a.names), slices.Clone(a.updates)
 	return a
 }
 
 func scribbleImageAnswer(a imageAnswer) {
 	scribbleImage(a.image)
 	fillUp(a.names, "scribbled")
+	fillUp(a.updates, impl.Update{At: -9, Data: "scribbled"})
 }
 
 type imageCall struct {
@@ -75,7 +77,7 @@ type imageCall struct {
 	run  func(m impl.Image) imageAnswer
 }
 
-// imageCalls are the calls on images, with arguments that are right and that are none.
+// imageCalls are the calls on images, those of the store among them, with arguments that are right and that are none.
 func imageCalls() []imageCall {
 	out := []imageCall{
 		{"ImageOK", func(m impl.Image) imageAnswer { return imageAnswer{number: numberOf(impl.ImageOK(m))} }},
@@ -95,7 +97,7 @@ func imageCalls() []imageCall {
 			out = append(out, imageCall{call.name, func(m impl.Image) (a imageAnswer) { a.image, a.code = call.run(m, name); return a }})
 		}
 	}
-	return out
+	return append(out, storeImageCalls()...)
 }
 
 // fewWrongImages are one of each sort.
@@ -131,6 +133,8 @@ func imagesBusy() {
 	impl.SnapDelete(m, "busy")
 	impl.ImageOK(impl.Image{Table: []int{2, 2}})
 	impl.WriteCluster(m, 9, 9)
+	impl.ImageUpdates(m)
+	impl.DiffUpdates(m, impl.Image{})
 }
 
 func TestP1ImagesLeaveArgumentsAsTheyAre(t *testing.T) {
@@ -169,29 +173,30 @@ func TestP1ImagesHaveAlikeAnswersInNewMemory(t *testing.T) {
 	})
 }
 
-// Each list of an answer is written over in its turn, and none of the others is changed by it.
-func TestP1ImagesShareNoMemoryWithin(t *testing.T) {
-	wantApart := func(name string, m impl.Image) {
-		t.Helper()
-		lists := intListsOf(m)
-		for i := range lists {
-			was := make([][]int, len(lists))
-			for k, list := range lists {
-				was[k] = slices.Clone(list)
-			}
-			scribbleInts(lists[i])
-			for k, list := range lists {
-				if k != i && !slices.Equal(list, was[k]) {
-					t.Fatal("two lists of one answer share memory:", name, i, k)
-				}
-			}
-			copy(lists[i], was[i])
+// wantApart writes over each list of an image in its turn, and asks that none of the others is changed by it.
+func wantApart(t *testing.T, name string, m impl.Image) {
+	t.Helper()
+	lists := intListsOf(m)
+	for i := range lists {
+		was := make([][]int, len(lists))
+		for k, list := range lists {
+			was[k] = slices.Clone(list)
 		}
+		scribbleInts(lists[i])
+		for k, list := range lists {
+			if k != i && !slices.Equal(list, was[k]) {
+				t.Fatal("two lists of one answer share memory:", name, i, k)
+			}
+		}
+		copy(lists[i], was[i])
 	}
-	everyImageCall(func(m impl.Image, c imageCall) { wantApart(c.name, c.run(m).image) })
+}
+
+func TestP1ImagesShareNoMemoryWithin(t *testing.T) {
+	everyImageCall(func(m impl.Image, c imageCall) { wantApart(t, c.name, c.run(m).image) })
 	for size := range 13 {
 		m, _ := impl.NewImage(size)
-		wantApart("NewImage", m)
+		wantApart(t, "NewImage", m)
 	}
 }
 
@@ -253,6 +258,8 @@ func TestP1ImagesWithACode(t *testing.T) {
 		}
 	})
 	for name, want := range map[string][]int{
+		"ImageUpdates": {impl.OK, impl.ErrBad},
+		"DiffUpdates":  {impl.OK, impl.ErrBad},
 		"ImageOK":      {impl.OK},
 		"SnapNames":    {impl.OK, impl.ErrBad},
 		"ReadCluster":  {impl.OK, impl.ErrBad, impl.ErrRange},

@@ -54,7 +54,7 @@ func TestP1AnswersShareNoMemoryWithEachOther(t *testing.T) {
 }
 
 func TestP1AlikeArgumentsHaveAlikeAnswers(t *testing.T) {
-	full, deltas, leaders, journals := fullDisk(), deltaDisk(), leaderDisk(), journalDisk()
+	full, deltas, leaders, journals, images := fullDisk(), deltaDisk(), leaderDisk(), journalDisk(), imageDisk()
 	busy := func() {
 		impl.Flush(full, 0)
 		impl.LoseHost(full, 1, 3)
@@ -68,6 +68,8 @@ func TestP1AlikeArgumentsHaveAlikeAnswers(t *testing.T) {
 		impl.JournalOf(journals, 3, 1)
 		plan, _ := impl.ReplayPlan(journals, 3, 0)
 		impl.MovesDo(journals, 3, plan)
+		impl.ReadImage(images, 2)
+		impl.Format(images, 3, 4)
 	}
 	everyCall(t, func(where string, d impl.Disk, c diskCall) {
 		first := c.run(roomy(d))
@@ -98,7 +100,7 @@ func TestP1WithACodeAllElseIsZero(t *testing.T) {
 		if got.code == impl.OK {
 			return
 		}
-		if got.text != "" || got.number != 0 || len(got.updates) != 0 || len(got.moves) != 0 {
+		if got.text != "" || got.number != 0 || len(got.updates) != 0 || len(got.moves) != 0 || !sameImage(got.image, impl.Image{}) {
 			t.Fatal("not zero with a code:", where, got.code)
 		}
 		same := slices.Contains(asItWas[c.name], got.code)
