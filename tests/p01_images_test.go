@@ -53,16 +53,17 @@ type imageAnswer struct {
 	image   impl.Image
 	names   []string
 	updates []impl.Update
+	list    []int
 	number  int
 	code    int
 }
 
 func sameImageAnswer(a, b imageAnswer) bool {
-	return sameImage(a.image, b.image) && slices.Equal(a.names, b.names) && slices.Equal(a.updates, b.updates) && a.number == b.number && a.code == b.code
+	return sameImage(a.image, b.image) && slices.Equal(a.names, b.names) && slices.Equal(a.updates, b.updates) && slices.Equal(a.list, b.list) && a.number == b.number && a.code == b.code
 }
 
 func cloneImageAnswer(a imageAnswer) imageAnswer {
-	a.image, a.names, a.updates = cloneImage(a.image), slices.Clone(a.names), slices.Clone(a.updates)
+	a.image, a.names, a.updates, a.list = cloneImage(a.image), slices.Clone(a.names), slices.Clone(a.updates), slices.Clone(a.list)
 	return a
 }
 
@@ -70,6 +71,7 @@ func scribbleImageAnswer(a imageAnswer) {
 	scribbleImage(a.image)
 	fillUp(a.names, "scribbled")
 	fillUp(a.updates, impl.Update{At: -9, Data: "scribbled"})
+	scribbleInts(a.list)
 }
 
 type imageCall struct {
@@ -77,7 +79,7 @@ type imageCall struct {
 	run  func(m impl.Image) imageAnswer
 }
 
-// imageCalls are the calls on images, those of the store among them, with arguments that are right and that are none.
+// imageCalls are the calls on images, those of the store and of check and repair among them, with arguments that are right and that are none.
 func imageCalls() []imageCall {
 	out := []imageCall{
 		{"ImageOK", func(m impl.Image) imageAnswer { return imageAnswer{number: numberOf(impl.ImageOK(m))} }},
@@ -97,7 +99,7 @@ func imageCalls() []imageCall {
 			out = append(out, imageCall{call.name, func(m impl.Image) (a imageAnswer) { a.image, a.code = call.run(m, name); return a }})
 		}
 	}
-	return append(out, storeImageCalls()...)
+	return slices.Concat(out, storeImageCalls(), checkCalls())
 }
 
 // fewWrongImages are one of each sort.
@@ -114,7 +116,7 @@ func fewWrongImages() []impl.Image {
 
 func everyImageCall(f func(m impl.Image, c imageCall)) {
 	calls := imageCalls()
-	for _, m := range append(exampleImages(), fewWrongImages()...) {
+	for _, m := range slices.Concat(exampleImages(), fewWrongImages(), damagedImages()) {
 		for _, c := range calls {
 			f(m, c)
 		}
@@ -135,6 +137,11 @@ func imagesBusy() {
 	impl.WriteCluster(m, 9, 9)
 	impl.ImageUpdates(m)
 	impl.DiffUpdates(m, impl.Image{})
+	m.Refs[5], m.Data[9] = 15, 99
+	impl.WrongRefs(m)
+	impl.Leaks(m)
+	impl.Repair(m)
+	impl.CountRefs(impl.Image{})
 }
 
 func TestP1ImagesLeaveArgumentsAsTheyAre(t *testing.T) {
@@ -258,6 +265,10 @@ func TestP1ImagesWithACode(t *testing.T) {
 		}
 	})
 	for name, want := range map[string][]int{
+		"CountRefs":    {impl.OK, impl.ErrBad},
+		"WrongRefs":    {impl.OK, impl.ErrBad},
+		"Leaks":        {impl.OK, impl.ErrBad},
+		"Repair":       {impl.OK, impl.ErrBad},
 		"ImageUpdates": {impl.OK, impl.ErrBad},
 		"DiffUpdates":  {impl.OK, impl.ErrBad},
 		"ImageOK":      {impl.OK},
