@@ -54,16 +54,18 @@ type imageAnswer struct {
 	names   []string
 	updates []impl.Update
 	list    []int
+	reply   impl.Reply
 	number  int
 	code    int
 }
 
 func sameImageAnswer(a, b imageAnswer) bool {
-	return sameImage(a.image, b.image) && slices.Equal(a.names, b.names) && slices.Equal(a.updates, b.updates) && slices.Equal(a.list, b.list) && a.number == b.number && a.code == b.code
+	return sameImage(a.image, b.image) && slices.Equal(a.names, b.names) && slices.Equal(a.updates, b.updates) && slices.Equal(a.list, b.list) && sameReply(a.reply, b.reply) && a.number == b.number && a.code == b.code
 }
 
 func cloneImageAnswer(a imageAnswer) imageAnswer {
 	a.image, a.names, a.updates, a.list = cloneImage(a.image), slices.Clone(a.names), slices.Clone(a.updates), slices.Clone(a.list)
+	a.reply.Names = slices.Clone(a.reply.Names)
 	return a
 }
 
@@ -72,6 +74,7 @@ func scribbleImageAnswer(a imageAnswer) {
 	fillUp(a.names, "scribbled")
 	fillUp(a.updates, impl.Update{At: -9, Data: "scribbled"})
 	scribbleInts(a.list)
+	fillUp(a.reply.Names, "scribbled")
 }
 
 type imageCall struct {
@@ -79,7 +82,7 @@ type imageCall struct {
 	run  func(m impl.Image) imageAnswer
 }
 
-// imageCalls are the calls on images, those of the store and of check and repair among them, with arguments that are right and that are none.
+// imageCalls are the calls on images, those of the store, of check and repair and of requests among them, with arguments that are right and that are none.
 func imageCalls() []imageCall {
 	out := []imageCall{
 		{"ImageOK", func(m impl.Image) imageAnswer { return imageAnswer{number: numberOf(impl.ImageOK(m))} }},
@@ -99,7 +102,7 @@ func imageCalls() []imageCall {
 			out = append(out, imageCall{call.name, func(m impl.Image) (a imageAnswer) { a.image, a.code = call.run(m, name); return a }})
 		}
 	}
-	return slices.Concat(out, storeImageCalls(), checkCalls())
+	return slices.Concat(out, storeImageCalls(), checkCalls(), reqCalls())
 }
 
 // fewWrongImages are one of each sort.
@@ -142,6 +145,7 @@ func imagesBusy() {
 	impl.Leaks(m)
 	impl.Repair(m)
 	impl.CountRefs(impl.Image{})
+	requestsBusy()
 }
 
 func TestP1ImagesLeaveArgumentsAsTheyAre(t *testing.T) {
@@ -265,6 +269,7 @@ func TestP1ImagesWithACode(t *testing.T) {
 		}
 	})
 	for name, want := range map[string][]int{
+		"ReqDo":        {impl.OK, impl.ErrBad},
 		"CountRefs":    {impl.OK, impl.ErrBad},
 		"WrongRefs":    {impl.OK, impl.ErrBad},
 		"Leaks":        {impl.OK, impl.ErrBad},
