@@ -55,17 +55,18 @@ type imageAnswer struct {
 	updates []impl.Update
 	list    []int
 	reply   impl.Reply
+	guest   impl.Guest
 	number  int
 	code    int
 }
 
 func sameImageAnswer(a, b imageAnswer) bool {
-	return sameImage(a.image, b.image) && slices.Equal(a.names, b.names) && slices.Equal(a.updates, b.updates) && slices.Equal(a.list, b.list) && sameReply(a.reply, b.reply) && a.number == b.number && a.code == b.code
+	return sameImage(a.image, b.image) && slices.Equal(a.names, b.names) && slices.Equal(a.updates, b.updates) && slices.Equal(a.list, b.list) && sameReply(a.reply, b.reply) && alikeGuests(a.guest, b.guest) && a.number == b.number && a.code == b.code
 }
 
 func cloneImageAnswer(a imageAnswer) imageAnswer {
 	a.image, a.names, a.updates, a.list = cloneImage(a.image), slices.Clone(a.names), slices.Clone(a.updates), slices.Clone(a.list)
-	a.reply.Names = slices.Clone(a.reply.Names)
+	a.reply.Names, a.guest = slices.Clone(a.reply.Names), cloneGuest(a.guest)
 	return a
 }
 
@@ -75,6 +76,7 @@ func scribbleImageAnswer(a imageAnswer) {
 	fillUp(a.updates, impl.Update{At: -9, Data: "scribbled"})
 	scribbleInts(a.list)
 	fillUp(a.reply.Names, "scribbled")
+	scribbleGuest(a.guest)
 }
 
 type imageCall struct {
@@ -82,11 +84,12 @@ type imageCall struct {
 	run  func(m impl.Image) imageAnswer
 }
 
-// imageCalls are the calls on images, those of the store, of check and repair and of requests among them, with arguments that are right and that are none.
+// imageCalls are the calls on images, those of the store, of check and repair, of requests and of guests among them, with arguments that are right and that are none.
 func imageCalls() []imageCall {
 	out := []imageCall{
 		{"ImageOK", func(m impl.Image) imageAnswer { return imageAnswer{number: numberOf(impl.ImageOK(m))} }},
 		{"SnapNames", func(m impl.Image) (a imageAnswer) { a.names, a.code = impl.SnapNames(m); return a }},
+		{"GuestOf", func(m impl.Image) (a imageAnswer) { a.guest, a.code = impl.GuestOf(m); return a }},
 	}
 	for _, n := range []int{0, 1, 2, 5, 11, 12, -1, 13, least, greatest} {
 		out = append(out,
@@ -146,6 +149,7 @@ func imagesBusy() {
 	impl.Repair(m)
 	impl.CountRefs(impl.Image{})
 	requestsBusy()
+	guestsBusy()
 }
 
 func TestP1ImagesLeaveArgumentsAsTheyAre(t *testing.T) {
@@ -270,6 +274,7 @@ func TestP1ImagesWithACode(t *testing.T) {
 	})
 	for name, want := range map[string][]int{
 		"ReqDo":        {impl.OK, impl.ErrBad},
+		"GuestOf":      {impl.OK, impl.ErrBad},
 		"CountRefs":    {impl.OK, impl.ErrBad},
 		"WrongRefs":    {impl.OK, impl.ErrBad},
 		"Leaks":        {impl.OK, impl.ErrBad},
